@@ -16,6 +16,8 @@ var wordTexts = map[int]string{
 	1012: "[", 1013: "]",
 }
 
+const maxInt = int(^uint(0) >> 1)
+
 // fits tells by taking away pairs of brackets side by side whether all brackets of a row fit.
 func fits(p []int) bool {
 	var b strings.Builder
@@ -117,7 +119,6 @@ func programs() [][]int {
 
 // badPrograms returns rows that are no valid programs.
 func badPrograms() [][]int {
-	const maxInt = int(^uint(0) >> 1)
 	list := [][]int{
 		{-1}, {1000}, {1014}, {1101}, {2000}, {3000}, {maxInt}, {-maxInt - 1}, {1, 2, 1000}, {-1, 2},
 		{impl.OpOpen}, {impl.OpEnd}, {impl.OpEnd, impl.OpOpen}, {impl.OpOpen, impl.OpOpen, impl.OpEnd},

@@ -127,7 +127,6 @@ func badStates() []impl.State {
 }
 
 func TestValuesOfOneWord(t *testing.T) {
-	const maxInt = int(^uint(0) >> 1)
 	for w := -20; w < 4000; w++ {
 		if got := impl.ValueOk([]int{w}); got != (0 <= w && w <= 999) {
 			t.Fatalf("ValueOk of %d: %v", w, got)

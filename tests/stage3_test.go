@@ -124,7 +124,6 @@ func wordsEffect(r *rand.Rand, most int) impl.Effect {
 
 // badRows returns what is no row.
 func badRows() [][]int {
-	const maxInt = int(^uint(0) >> 1)
 	return [][]int{
 		nil, {}, {3}, {3, -1}, {3, 1000}, {3, maxInt}, {3, -maxInt - 1}, {0}, {1, 0}, {2, 3, 0, 3, 0}, {4}, {4, 3}, {4, 3, 0}, {4, 0}, {4, 0, 0}, {4, 1, 0, 0}, {4, 3, 0, 3, 0}, {4, 3, 0, 4, 3, 0, 0},
 		{3, 0, 0}, {3, 0, 3, 0}, {4, 3, 0, 0, 0}, {5, 0}, {-1}, {-1, 0}, {6}, {maxInt}, {-maxInt - 1},

@@ -60,7 +60,6 @@ func TestEffectsOfWords(t *testing.T) {
 }
 
 func TestOthersHaveNoEffect(t *testing.T) {
-	const maxInt = int(^uint(0) >> 1)
 	for _, w := range []int{impl.OpOpen, impl.OpEnd, -1, -2, 1000, 1014, 1015, 2000, 3003, maxInt, -maxInt - 1} {
 		if e, ok := impl.WordEffect(w); ok || !noEffect(e) {
 			t.Fatalf("%d has the effect %v", w, e)
